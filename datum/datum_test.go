@@ -15,6 +15,7 @@ const (
 	// The document's numbers, not the package's: a bound that is moved must be seen.
 	mostLooked    = 100000
 	deepestLooked = 10000
+	deepestGiven  = 1 << 16
 )
 
 // num is a number of these limbs, Good or not.
@@ -128,19 +129,27 @@ func bads() []api.Datum {
 	return out
 }
 
-// bigs are data that are too many or too deep to be looked at.
-func bigs() []api.Datum {
+// longs are data that are too many or too deep to be looked at, but may be handed in.
+func longs() []api.Datum {
 	shared := flat(60000)
 	return []api.Datum{
 		flat(mostLooked + 1), flat(3 * mostLooked), list(shared, shared), dotted(shared, shared),
 		chain(deepestLooked+1, sym("x")), chain(3*deepestLooked, sym("x")), tailChain(deepestLooked+1, sym("x")),
-		chain(2*mostLooked, sym("x")), ring(1), ring(2), ring(500), doubled(60),
+		chain(deepestGiven, sym("x")), doubled(17),
 		{Kind: api.Num, Items: make([]api.Datum, mostLooked)}, {Kind: 9, Tail: make([]api.Datum, mostLooked)},
 		{Kind: api.Sym, S: "x", Items: []api.Datum{chain(deepestLooked, sym("x"))}},
 		{Kind: api.Sym, S: "x", Tail: []api.Datum{chain(deepestLooked, sym("x"))}},
 		dotted(list(sym("a")), sym("b"), chain(deepestLooked, sym("x"))),
 	}
 }
+
+// endless are data that are beyond what may be handed in.
+func endless() []api.Datum {
+	return []api.Datum{chain(2*mostLooked, sym("x")), ring(1), ring(2), ring(500), doubled(60)}
+}
+
+// bigs are all data that are not looked at.
+func bigs() []api.Datum { return append(longs(), endless()...) }
 
 // samples are all data that are looked at, Good or not.
 func samples() []api.Datum {

@@ -25,9 +25,9 @@ func Text(s string) api.Datum {
 	return api.Datum{Kind: api.Str, S: s}
 }
 
-// Items: the list of Copies of l.
+// Items: the list of l. The chapter gives it no bound: only what is beyond the document's, which need not end, is Nothing.
 func Items(l ...api.Datum) api.Datum {
-	return api.Datum{Kind: api.List, Items: each(l, Copy)}
+	return copied(api.Datum{Kind: api.List, Items: l}, given())
 }
 
 // Pair: Norm of the list whose first is a, and the rest b.
@@ -35,14 +35,14 @@ func Pair(a, b api.Datum) api.Datum {
 	return Norm(api.Datum{Kind: api.List, Items: []api.Datum{a}, Tail: []api.Datum{b}})
 }
 
-// Split: Copies of the first of a List's Items, and of the rest; false of what is no List with Items.
+// Split: the first of a List's Items, and the rest, with no bound but that of Items; false of what is no List with Items.
 func Split(d api.Datum) (api.Datum, api.Datum, bool) {
 	if d.Kind != api.List || len(d.Items) == 0 {
 		return api.Datum{}, api.Datum{}, false
 	}
-	first, left := Copy(d.Items[0]), d.Items[1:]
-	if len(left) == 0 && len(d.Tail) > 0 {
-		return first, Copy(d.Tail[0]), true
+	first := copied(d.Items[0], given())
+	if len(d.Items) == 1 && len(d.Tail) > 0 {
+		return first, copied(d.Tail[0], given()), true
 	}
-	return first, api.Datum{Kind: api.List, Items: each(left, Copy), Tail: each(d.Tail, Copy)}, true
+	return first, copied(api.Datum{Kind: api.List, Items: d.Items[1:], Tail: d.Tail}, given()), true
 }

@@ -3,7 +3,6 @@ package datum
 import (
 	"math"
 	"math/big"
-	"slices"
 	"strings"
 	"testing"
 
@@ -55,19 +54,33 @@ func TestItems(t *testing.T) {
 	if got := Items(make([]api.Datum, 2*mostLooked)...); got.Kind != api.List || len(got.Items) != 2*mostLooked {
 		t.Errorf("Items of many: %d", len(got.Items))
 	}
-	for i, d := range bigs() {
-		if got := Items(sym("a"), d, sym("b")); !exactly(got, list(sym("a"), Copy(d), sym("b"))) {
-			t.Errorf("Items with big datum %d: Size %d", i, Size(got))
+}
+
+// Items has no bound of its own: a list of what other calls do not look at is that list.
+func TestItemsOfMany(t *testing.T) {
+	for i, d := range longs() {
+		if got := Items(sym("a"), d, sym("b")); !exactly(got, list(sym("a"), d, sym("b"))) {
+			t.Errorf("Items with long datum %d: Size %d, Depth %d", i, Size(got), Depth(got))
 		}
+	}
+	d := chain(deepestLooked-5, sym("x"))
+	for range 10 {
+		d = Items(d)
+	}
+	if !exactly(d, chain(deepestLooked+5, sym("x"))) || Depth(d) != 0 {
+		t.Errorf("Items of Items again and again: Size %d, Depth %d", Size(d), Depth(d))
 	}
 }
 
 // Lists that hold themselves, and lists that are held again and again, are soon told from others.
 func TestItemsOfRings(t *testing.T) {
-	ring, twofold := ring(2000), doubled(60)
-	got := Items(append(slices.Clone(ring.Items), twofold, twofold)...)
-	if !exactly(got, flat(2003)) {
-		t.Errorf("Items of rings: Size %d, Depth %d", Size(got), Depth(got))
+	for i, d := range append(endless(), ring(2000), ring(mostLooked)) {
+		if got := Items(sym("a"), d, sym("b")); !isNothing(got) {
+			t.Errorf("Items with endless datum %d: Size %d, Depth %d", i, Size(got), Depth(got))
+		}
+		if got := Items(d.Items...); !isNothing(got) {
+			t.Errorf("Items of endless datum %d's: Size %d, Depth %d", i, Size(got), Depth(got))
+		}
 	}
 }
 
@@ -146,18 +159,39 @@ func TestSplitOfNoList(t *testing.T) {
 	}
 }
 
+// Split has no bound of its own: it tells what other calls do not look at.
 func TestSplitOfMany(t *testing.T) {
-	first, rest, ok := Split(flat(3 * mostLooked))
-	if !ok || !isNothing(first) || rest.Kind != api.List || len(rest.Items) != 3*mostLooked-2 {
-		t.Errorf("Split of many: %v, %d, %t", first, len(rest.Items), ok)
-	}
-	first, rest, ok = Split(chain(deepestLooked+1, sym("x")))
-	if !ok || Depth(first) != deepestLooked || !exactly(rest, list()) {
-		t.Errorf("Split of what is one too deep: %d, %v, %t", Depth(first), rest, ok)
-	}
-	for i, d := range bigs() {
+	a := sym("a")
+	for i, d := range longs() {
+		cases := []struct{ d, first, rest api.Datum }{
+			{list(d), d, list()},
+			{list(d, a), d, list(a)},
+			{list(a, d), a, list(d)},
+			{dotted(list(a), d), a, d},
+			{dotted(list(a, a), d), a, dotted(list(a), d)},
+			{dotted(list(a), a, d), a, a},
+		}
+		for j, x := range cases {
+			first, rest, ok := Split(x.d)
+			if !ok || !exactly(first, x.first) || !exactly(rest, x.rest) {
+				t.Errorf("long datum %d, case %d: Split tells Sizes %d, %d, %t", i, j, Size(first), Size(rest), ok)
+			}
+		}
 		if _, _, ok := Split(d); ok != (d.Kind == api.List) {
-			t.Errorf("Split of big datum %d: %t", i, ok)
+			t.Errorf("Split of long datum %d: %t", i, ok)
+		}
+	}
+}
+
+func TestSplitOfRings(t *testing.T) {
+	for i, d := range endless() {
+		first, rest, ok := Split(list(d, sym("a")))
+		if !ok || !isNothing(first) || !exactly(rest, list(sym("a"))) {
+			t.Errorf("an endless first, %d: Sizes %d, %d, %t", i, Size(first), Size(rest), ok)
+		}
+		first, rest, ok = Split(list(sym("a"), d))
+		if !ok || !exactly(first, sym("a")) || !isNothing(rest) {
+			t.Errorf("an endless rest, %d: Sizes %d, %d, %t", i, Size(first), Size(rest), ok)
 		}
 	}
 }

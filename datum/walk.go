@@ -10,12 +10,16 @@ const (
 	// mostData and mostDeep are where calls cease to look: data may hold one another without an end.
 	mostData = 100000
 	mostDeep = 10000
+
+	// mostGiven and mostNested are what the document's bound lets be handed in: 2^31 - 1 bytes, of which a datum has a hundred or more, and 2^16 parts in one another, here in a list.
+	mostGiven  = 20000000
+	mostNested = 1<<16 + 1
 )
 
 // Walk: d, then all of its Items and Tail likewise, in order; none of data that are too many or too deep.
 func Walk(d api.Datum) iter.Seq[api.Datum] {
-	m := measure(&d)
-	if !m.fits() {
+	m, ok := measure(&d, looked())
+	if !ok {
 		return func(func(api.Datum) bool) {}
 	}
 	kept := twin(d, m.data)
@@ -31,13 +35,15 @@ func Walk(d api.Datum) iter.Seq[api.Datum] {
 
 // Size: how many data there are in d, itself too, up to 100000.
 func Size(d api.Datum) int {
-	return min(measure(&d).data, mostData)
+	// Depth counts for nothing here: nothing lies deeper than there are data.
+	m, _ := measure(&d, extent{data: mostData, deep: mostData})
+	return min(m.data, mostData)
 }
 
 // Depth: 1, or 1 more than the greatest of Items and Tail; 0 of data that are too many or too deep.
 func Depth(d api.Datum) int {
-	m := measure(&d)
-	if !m.fits() {
+	m, ok := measure(&d, looked())
+	if !ok {
 		return 0
 	}
 	return m.deep
@@ -48,21 +54,27 @@ type extent struct {
 	data, deep int
 }
 
-func (m extent) fits() bool {
-	return m.data <= mostData && m.deep <= mostDeep
+// looked is the most that calls look at which the chapter gives a bound.
+func looked() extent {
+	return extent{data: mostData, deep: mostDeep}
 }
 
-// measure counts data with the one that holds them, ahead of their being told: so it ceases at once where a long list is one too many.
-func measure(d *api.Datum) extent {
+// given is the most that the others look at.
+func given() extent {
+	return extent{data: mostGiven, deep: mostNested}
+}
+
+// measure is d's extent; false, and as much of it as was counted, if it is beyond most. It counts data with the one that holds them, ahead of their being told: so it ceases at once where a long list is one too many.
+func measure(d *api.Datum, most extent) (extent, bool) {
 	m := extent{data: 1}
 	for level, x := range told(d) {
 		m.deep = max(m.deep, level)
 		m.data += len(x.Items) + len(x.Tail)
-		if m.data > mostData {
-			break
+		if m.data > most.data || m.deep > most.deep {
+			return m, false
 		}
 	}
-	return m
+	return m, true
 }
 
 // told tells d, and all data in it, as they lie there, each behind the one that holds it, with how deep it lies. It need not end of itself.
